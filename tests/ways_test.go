@@ -54,3 +54,74 @@ func TestWayOfBytes(t *testing.T) {
 		}
 	}
 }
+
+// methodsOf counts the methods of each type of one file.
+func methodsOf(f *ast.File) map[string]int {
+	out := map[string]int{}
+	for _, d := range f.Decls {
+		fn, ok := d.(*ast.FuncDecl)
+		if !ok || fn.Recv == nil {
+			continue
+		}
+		if id, ok := fn.Recv.List[0].Type.(*ast.Ident); ok {
+			out[id.Name]++
+		}
+	}
+	return out
+}
+
+// switchedTypes has the types that a function's type switches tell.
+func switchedTypes(fn *ast.FuncDecl) map[string]bool {
+	out := map[string]bool{}
+	ast.Inspect(fn.Body, func(n ast.Node) bool {
+		if s, ok := n.(*ast.TypeSwitchStmt); ok {
+			for _, c := range s.Body.List {
+				for _, e := range c.(*ast.CaseClause).List {
+					if id, ok := e.(*ast.Ident); ok {
+						out[id.Name] = true
+					}
+				}
+			}
+		}
+		return true
+	})
+	return out
+}
+
+func hasInterface(f *ast.File) bool {
+	found := false
+	ast.Inspect(f, func(n ast.Node) bool {
+		if i, ok := n.(*ast.InterfaceType); ok && len(i.Methods.List) > 0 {
+			found = true
+		}
+		return true
+	})
+	return found
+}
+
+// One type a kind, each with the methods of the interface, and all told by a type switch.
+func TestWayOfValues(t *testing.T) {
+	_, f, _ := parsed(t, "../impl/l02_val.go")
+	if !hasInterface(f) {
+		t.Error("no interface")
+	}
+	funcs, methods := funcsOf(f), methodsOf(f)
+	for name, kinds := range map[string]int{"ValOk": 4, "ValText": 5, "ParseVal": 5} {
+		seen := map[string]bool{}
+		reach(funcs, name, seen)
+		told := map[string]bool{}
+		for called := range seen {
+			for kind := range switchedTypes(funcs[called]) {
+				told[kind] = methods[kind] > 0
+			}
+		}
+		if len(told) < kinds {
+			t.Errorf("%s tells %d kinds by type switches", name, len(told))
+		}
+		for kind, has := range told {
+			if !has {
+				t.Errorf("%s tells %s, which has no methods", name, kind)
+			}
+		}
+	}
+}
