@@ -35,23 +35,16 @@ func overwrite(b []byte) {
 	}
 }
 
-func TestBytesAnswersAreNewMemory(t *testing.T) {
-	sum := string(impl.PutSum([]byte("abc")))
-	cases := []struct {
-		name string
-		arg  string
-		do   func(b []byte) []byte
-	}{
-		{"PutU", "abc", func(b []byte) []byte { return impl.PutU(b, 300) }},
-		{"PutU behind nothing", "", func(b []byte) []byte { return impl.PutU(b, 300) }},
-		{"PutText", "abc", func(b []byte) []byte { return impl.PutText(b, "xyz") }},
-		{"PutText of nothing", "abc", func(b []byte) []byte { return impl.PutText(b, "") }},
-		{"PutSum", "abc", impl.PutSum},
-		{"PutSum of nothing", "", impl.PutSum},
-		{"GetSum", sum, func(b []byte) []byte { x, _ := impl.GetSum(b); return x }},
-		{"GetSum of nothing", "\x00\x00\x00\x00", func(b []byte) []byte { x, _ := impl.GetSum(b); return x }},
-		{"GetSum refused", "abcdefgh", func(b []byte) []byte { x, _ := impl.GetSum(b); return x }},
-	}
+// bytesAnswer is a call that answers bytes, of bytes.
+type bytesAnswer struct {
+	name string
+	arg  string
+	do   func(b []byte) []byte
+}
+
+// answersAreNew asks that the answers share no memory with the argument, nor with each other, and that the argument is not written to.
+func answersAreNew(t *testing.T, cases []bytesAnswer) {
+	t.Helper()
 	for _, c := range cases {
 		b := spared(c.arg)
 		first, second := c.do(b), c.do(b)
@@ -66,6 +59,21 @@ func TestBytesAnswersAreNewMemory(t *testing.T) {
 			t.Errorf("%s: the answer shares memory with the argument", c.name)
 		}
 	}
+}
+
+func TestBytesAnswersAreNewMemory(t *testing.T) {
+	sum := string(impl.PutSum([]byte("abc")))
+	answersAreNew(t, []bytesAnswer{
+		{"PutU", "abc", func(b []byte) []byte { return impl.PutU(b, 300) }},
+		{"PutU behind nothing", "", func(b []byte) []byte { return impl.PutU(b, 300) }},
+		{"PutText", "abc", func(b []byte) []byte { return impl.PutText(b, "xyz") }},
+		{"PutText of nothing", "abc", func(b []byte) []byte { return impl.PutText(b, "") }},
+		{"PutSum", "abc", impl.PutSum},
+		{"PutSum of nothing", "", impl.PutSum},
+		{"GetSum", sum, func(b []byte) []byte { x, _ := impl.GetSum(b); return x }},
+		{"GetSum of nothing", "\x00\x00\x00\x00", func(b []byte) []byte { x, _ := impl.GetSum(b); return x }},
+		{"GetSum refused", "abcdefgh", func(b []byte) []byte { x, _ := impl.GetSum(b); return x }},
+	})
 }
 
 func TestBytesReadersWriteNothing(t *testing.T) {

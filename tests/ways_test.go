@@ -125,3 +125,43 @@ func TestWayOfValues(t *testing.T) {
 		}
 	}
 }
+
+// textParams has the names of a function's parameters that are texts.
+func textParams(fn *ast.FuncDecl) map[string]bool {
+	out := map[string]bool{}
+	for _, p := range fn.Type.Params.List {
+		if id, ok := p.Type.(*ast.Ident); ok && id.Name == "string" {
+			for _, name := range p.Names {
+				out[name.Name] = true
+			}
+		}
+	}
+	return out
+}
+
+// rangesOverRunes tells whether a function ranges over a text that it is given, and takes the runes.
+func rangesOverRunes(fn *ast.FuncDecl) bool {
+	found := false
+	texts := textParams(fn)
+	ast.Inspect(fn.Body, func(n ast.Node) bool {
+		if r, ok := n.(*ast.RangeStmt); ok && r.Value != nil {
+			id, ok := r.X.(*ast.Ident)
+			found = found || ok && texts[id.Name]
+		}
+		return true
+	})
+	return found
+}
+
+func TestWayOfTextsInOrder(t *testing.T) {
+	_, f, _ := parsed(t, "../impl/l03_esc.go")
+	funcs := funcsOf(f)
+	seen := map[string]bool{}
+	reach(funcs, "PutEsc", seen)
+	for called := range seen {
+		if rangesOverRunes(funcs[called]) {
+			return
+		}
+	}
+	t.Error("PutEsc reads its text by no range over its runes")
+}
