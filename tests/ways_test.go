@@ -165,3 +165,49 @@ func TestWayOfTextsInOrder(t *testing.T) {
 	}
 	t.Error("PutEsc reads its text by no range over its runes")
 }
+
+// arraysOf has the names of a function's variables that are arrays of bytes of a fixed length.
+func arraysOf(fn *ast.FuncDecl) map[string]bool {
+	out := map[string]bool{}
+	ast.Inspect(fn.Body, func(n ast.Node) bool {
+		if v, ok := n.(*ast.ValueSpec); ok {
+			if a, ok := v.Type.(*ast.ArrayType); ok && a.Len != nil {
+				for _, name := range v.Names {
+					out[name.Name] = true
+				}
+			}
+		}
+		return true
+	})
+	return out
+}
+
+// cutsAnArray tells whether a function cuts an array of its own by three indexes.
+func cutsAnArray(fn *ast.FuncDecl) bool {
+	found := false
+	arrays := arraysOf(fn)
+	ast.Inspect(fn.Body, func(n ast.Node) bool {
+		if s, ok := n.(*ast.SliceExpr); ok && s.Slice3 {
+			id, ok := s.X.(*ast.Ident)
+			found = found || ok && arrays[id.Name]
+		}
+		return true
+	})
+	return found
+}
+
+func TestWayOfNumbersInOrder(t *testing.T) {
+	_, f, _ := parsed(t, "../impl/l04_num.go")
+	funcs := funcsOf(f)
+	for _, name := range []string{"PutFix", "PutVar"} {
+		seen := map[string]bool{}
+		reach(funcs, name, seen)
+		found := false
+		for called := range seen {
+			found = found || cutsAnArray(funcs[called])
+		}
+		if !found {
+			t.Errorf("%s cuts no array by three indexes", name)
+		}
+	}
+}
