@@ -211,3 +211,43 @@ func TestWayOfNumbersInOrder(t *testing.T) {
 		}
 	}
 }
+
+// tabledMethods has the method expressions of the file's own types that stand in a function's tables.
+func tabledMethods(fn *ast.FuncDecl, methods map[string]int) map[string]bool {
+	out := map[string]bool{}
+	ast.Inspect(fn.Body, func(n ast.Node) bool {
+		table, ok := n.(*ast.CompositeLit)
+		if !ok {
+			return true
+		}
+		for _, e := range table.Elts {
+			if kv, ok := e.(*ast.KeyValueExpr); ok {
+				e = kv.Value
+			}
+			if s, ok := e.(*ast.SelectorExpr); ok {
+				if id, ok := s.X.(*ast.Ident); ok && methods[id.Name] > 0 {
+					out[id.Name+"."+s.Sel.Name] = true
+				}
+			}
+		}
+		return true
+	})
+	return out
+}
+
+// Four types, each with a writer and a reader.
+func TestWayOfPartsOfKeys(t *testing.T) {
+	_, f, _ := parsed(t, "../impl/l05_part.go")
+	funcs, methods := funcsOf(f), methodsOf(f)
+	for _, name := range []string{"PutPart", "GetPart"} {
+		seen := map[string]bool{}
+		reach(funcs, name, seen)
+		most := 0
+		for called := range seen {
+			most = max(most, len(tabledMethods(funcs[called], methods)))
+		}
+		if most < 8 {
+			t.Errorf("%s has a table of %d method expressions", name, most)
+		}
+	}
+}
