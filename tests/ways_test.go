@@ -251,3 +251,50 @@ func TestWayOfPartsOfKeys(t *testing.T) {
 		}
 	}
 }
+
+// isIterator tells whether a function answers an iterator.
+func isIterator(fn *ast.FuncDecl) bool {
+	if fn == nil || fn.Type.Results == nil || len(fn.Type.Results.List) != 1 {
+		return false
+	}
+	found := false
+	ast.Inspect(fn.Type.Results, func(n ast.Node) bool {
+		if s, ok := n.(*ast.SelectorExpr); ok {
+			id, ok := s.X.(*ast.Ident)
+			found = found || ok && id.Name == "iter"
+		}
+		return true
+	})
+	return found
+}
+
+// rangesOverIterators tells whether a function ranges over what one of the file's iterators yields.
+func rangesOverIterators(fn *ast.FuncDecl, funcs map[string]*ast.FuncDecl) bool {
+	found := false
+	ast.Inspect(fn.Body, func(n ast.Node) bool {
+		if r, ok := n.(*ast.RangeStmt); ok {
+			if call, ok := r.X.(*ast.CallExpr); ok {
+				id, ok := call.Fun.(*ast.Ident)
+				found = found || ok && isIterator(funcs[id.Name])
+			}
+		}
+		return true
+	})
+	return found
+}
+
+func TestWayOfKeys(t *testing.T) {
+	_, f, _ := parsed(t, "../impl/l06_key.go")
+	funcs := funcsOf(f)
+	for _, name := range []string{"EncodeKey", "DecodeKey"} {
+		seen := map[string]bool{}
+		reach(funcs, name, seen)
+		found := false
+		for called := range seen {
+			found = found || rangesOverIterators(funcs[called], funcs)
+		}
+		if !found {
+			t.Errorf("%s ranges over no iterator", name)
+		}
+	}
+}
