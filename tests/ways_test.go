@@ -2,6 +2,7 @@ package tests
 
 import (
 	"go/ast"
+	"go/token"
 	"testing"
 )
 
@@ -297,4 +298,51 @@ func TestWayOfKeys(t *testing.T) {
 			t.Errorf("%s ranges over no iterator", name)
 		}
 	}
+}
+
+// movesItsPlace tells whether a function answers a closure that sets a number of the function around it, from which it reads.
+func movesItsPlace(fn *ast.FuncDecl) bool {
+	places := map[string]bool{}
+	for _, p := range fn.Type.Params.List {
+		if id, ok := p.Type.(*ast.Ident); ok && id.Name == "int" {
+			for _, name := range p.Names {
+				places[name.Name] = true
+			}
+		}
+	}
+	found := false
+	ast.Inspect(fn.Body, func(n ast.Node) bool {
+		if inner, ok := n.(*ast.FuncLit); ok {
+			found = found || setsOneOf(inner, places)
+		}
+		return true
+	})
+	return found
+}
+
+func setsOneOf(inner *ast.FuncLit, places map[string]bool) bool {
+	found := false
+	ast.Inspect(inner.Body, func(n ast.Node) bool {
+		if a, ok := n.(*ast.AssignStmt); ok && a.Tok == token.ASSIGN {
+			for _, left := range a.Lhs {
+				id, ok := left.(*ast.Ident)
+				found = found || ok && places[id.Name]
+			}
+		}
+		return true
+	})
+	return found
+}
+
+func TestWayOfRows(t *testing.T) {
+	_, f, _ := parsed(t, "../impl/l07_row.go")
+	funcs := funcsOf(f)
+	seen := map[string]bool{}
+	reach(funcs, "DecodeRow", seen)
+	for called := range seen {
+		if movesItsPlace(funcs[called]) {
+			return
+		}
+	}
+	t.Error("DecodeRow reads by no closure over its place")
 }
