@@ -346,3 +346,40 @@ func TestWayOfRows(t *testing.T) {
 	}
 	t.Error("DecodeRow reads by no closure over its place")
 }
+
+// statesOf has the labels of a function to which a goto leads, and how many loops it has.
+func statesOf(fn *ast.FuncDecl) (map[string]bool, int) {
+	states := map[string]bool{}
+	loops := 0
+	ast.Inspect(fn.Body, func(n ast.Node) bool {
+		switch x := n.(type) {
+		case *ast.BranchStmt:
+			if x.Tok == token.GOTO {
+				states[x.Label.Name] = true
+			}
+		case *ast.ForStmt, *ast.RangeStmt:
+			loops++
+		}
+		return true
+	})
+	return states, loops
+}
+
+// Between tokens, in a name, at a mark: no state is gone through by a loop.
+func TestWayOfTokens(t *testing.T) {
+	_, f, _ := parsed(t, "../impl/l08_token.go")
+	funcs := funcsOf(f)
+	seen := map[string]bool{}
+	reach(funcs, "Lex", seen)
+	most := 0
+	for called := range seen {
+		states, loops := statesOf(funcs[called])
+		most = max(most, len(states))
+		if loops > 0 {
+			t.Errorf("%s goes through the text by a loop", called)
+		}
+	}
+	if most < 3 {
+		t.Errorf("Lex goes by goto to %d states", most)
+	}
+}
