@@ -383,3 +383,72 @@ func TestWayOfTokens(t *testing.T) {
 		t.Errorf("Lex goes by goto to %d states", most)
 	}
 }
+
+// errorTypes has the types of one file that have a method Error, and so are errors.
+func errorTypes(f *ast.File) map[string]bool {
+	out := map[string]bool{}
+	for _, d := range f.Decls {
+		if fn, ok := d.(*ast.FuncDecl); ok && fn.Recv != nil && fn.Name.Name == "Error" {
+			if id, ok := fn.Recv.List[0].Type.(*ast.Ident); ok {
+				out[id.Name] = true
+			}
+		}
+	}
+	return out
+}
+
+// asksFor tells whether a function asks by errors.As for an error of one of these types.
+func asksFor(fn *ast.FuncDecl, types map[string]bool) bool {
+	asked := map[string]bool{}
+	wanted := false
+	ast.Inspect(fn.Body, func(n ast.Node) bool {
+		switch x := n.(type) {
+		case *ast.ValueSpec:
+			if id, ok := x.Type.(*ast.Ident); ok && types[id.Name] {
+				for _, name := range x.Names {
+					asked[name.Name] = true
+				}
+			}
+		case *ast.CallExpr:
+			wanted = wanted || isErrorsAs(x) && asked[pointedAt(x.Args[1])]
+		}
+		return true
+	})
+	return wanted
+}
+
+func isErrorsAs(call *ast.CallExpr) bool {
+	s, ok := call.Fun.(*ast.SelectorExpr)
+	if !ok || s.Sel.Name != "As" || len(call.Args) != 2 {
+		return false
+	}
+	id, ok := s.X.(*ast.Ident)
+	return ok && id.Name == "errors"
+}
+
+// pointedAt has the name of the variable whose address is taken.
+func pointedAt(e ast.Expr) string {
+	if u, ok := e.(*ast.UnaryExpr); ok && u.Op == token.AND {
+		if id, ok := u.X.(*ast.Ident); ok {
+			return id.Name
+		}
+	}
+	return ""
+}
+
+// What is wrong comes as an error, of each code alike.
+func TestWayOfTables(t *testing.T) {
+	_, f, _ := parsed(t, "../impl/l09_def.go")
+	funcs, types := funcsOf(f), errorTypes(f)
+	for _, name := range []string{"CheckDef", "DefText"} {
+		seen := map[string]bool{}
+		reach(funcs, name, seen)
+		found := false
+		for called := range seen {
+			found = found || asksFor(funcs[called], types)
+		}
+		if !found {
+			t.Errorf("%s asks by errors.As for no error of a type of its own", name)
+		}
+	}
+}
