@@ -452,3 +452,65 @@ func TestWayOfTables(t *testing.T) {
 		}
 	}
 }
+
+// allFuncsOf has the functions and the methods of one file by name.
+func allFuncsOf(f *ast.File) map[string]*ast.FuncDecl {
+	out := map[string]*ast.FuncDecl{}
+	for _, d := range f.Decls {
+		if fn, ok := d.(*ast.FuncDecl); ok {
+			out[fn.Name.Name] = fn
+		}
+	}
+	return out
+}
+
+// callsOf counts the calls of what has this name, by the name alone, anywhere below.
+func callsOf(n ast.Node, name string) int {
+	count := 0
+	ast.Inspect(n, func(n ast.Node) bool {
+		if call, ok := n.(*ast.CallExpr); ok {
+			if id, ok := call.Fun.(*ast.Ident); ok && id.Name == name {
+				count++
+			}
+		}
+		return true
+	})
+	return count
+}
+
+// defersRecover counts the calls of recover that stand in function literals that a function defers.
+func defersRecover(fn *ast.FuncDecl) int {
+	count := 0
+	ast.Inspect(fn.Body, func(n ast.Node) bool {
+		if d, ok := n.(*ast.DeferStmt); ok {
+			if inner, ok := d.Call.Fun.(*ast.FuncLit); ok {
+				count += callsOf(inner, "recover")
+			}
+		}
+		return true
+	})
+	return count
+}
+
+// What gives up stands below the face, and only the face catches it.
+func TestWayOfReadingTables(t *testing.T) {
+	_, f, _ := parsed(t, "../impl/l10_parse.go")
+	funcs := allFuncsOf(f)
+	if defersRecover(funcs["ParseDefs"]) == 0 {
+		t.Error("ParseDefs defers no recover")
+	}
+	if callsOf(f, "recover") != defersRecover(funcs["ParseDefs"]) {
+		t.Error("a recover stands elsewhere")
+	}
+	seen := map[string]bool{}
+	reach(funcs, "ParseDefs", seen)
+	gives := 0
+	for called := range seen {
+		if called != "ParseDefs" && callsOf(funcs[called], "panic") > 0 {
+			gives++
+		}
+	}
+	if gives < 3 {
+		t.Errorf("%d functions below ParseDefs give up by a panic", gives)
+	}
+}
