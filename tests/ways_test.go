@@ -2,7 +2,10 @@ package tests
 
 import (
 	"go/ast"
+	"go/importer"
+	"go/parser"
 	"go/token"
+	"go/types"
 	"testing"
 )
 
@@ -512,5 +515,96 @@ func TestWayOfReadingTables(t *testing.T) {
 	}
 	if gives < 3 {
 		t.Errorf("%d functions below ParseDefs give up by a panic", gives)
+	}
+}
+
+// embeddedTypes has the types of one file that a struct of it embeds.
+func embeddedTypes(f *ast.File) map[string]bool {
+	out := map[string]bool{}
+	ast.Inspect(f, func(n ast.Node) bool {
+		if s, ok := n.(*ast.StructType); ok {
+			for _, field := range s.Fields.List {
+				if id, ok := field.Type.(*ast.Ident); ok && len(field.Names) == 0 {
+					out[id.Name] = true
+				}
+			}
+		}
+		return true
+	})
+	return out
+}
+
+// methodNamesOf has the names of the methods that the file gives these types.
+func methodNamesOf(f *ast.File, types map[string]bool) map[string]bool {
+	out := map[string]bool{}
+	for _, d := range f.Decls {
+		if fn, ok := d.(*ast.FuncDecl); ok && fn.Recv != nil {
+			if id, ok := fn.Recv.List[0].Type.(*ast.Ident); ok && types[id.Name] {
+				out[fn.Name.Name] = true
+			}
+		}
+	}
+	return out
+}
+
+// checkedProgram has what the program's types say of each selector in it.
+func checkedProgram(t *testing.T) map[token.Position]*types.Selection {
+	t.Helper()
+	fset := token.NewFileSet()
+	var files []*ast.File
+	for _, name := range programFiles(t) {
+		f, err := parser.ParseFile(fset, name, nil, parser.SkipObjectResolution)
+		if err != nil {
+			t.Fatal(err)
+		}
+		files = append(files, f)
+	}
+	info := types.Info{Selections: map[*ast.SelectorExpr]*types.Selection{}}
+	config := types.Config{Importer: importer.ForCompiler(fset, "source", nil)}
+	if _, err := config.Check("impl", fset, files, &info); err != nil {
+		t.Fatal(err)
+	}
+	out := map[token.Position]*types.Selection{}
+	for x, s := range info.Selections {
+		out[fset.Position(x.Sel.Pos())] = s
+	}
+	return out
+}
+
+// promotedCalls counts the calls below of these methods that reach them through what is embedded.
+func promotedCalls(fset *token.FileSet, n ast.Node, names map[string]bool, selections map[token.Position]*types.Selection) int {
+	count := 0
+	ast.Inspect(n, func(n ast.Node) bool {
+		if call, ok := n.(*ast.CallExpr); ok {
+			if x, ok := call.Fun.(*ast.SelectorExpr); ok && names[x.Sel.Name] {
+				s := selections[fset.Position(x.Sel.Pos())]
+				if s != nil && s.Kind() == types.MethodVal && len(s.Index()) > 1 {
+					count++
+				}
+			}
+		}
+		return true
+	})
+	return count
+}
+
+// A plan embeds its parts, and is asked for what these can do.
+func TestWayOfPlans(t *testing.T) {
+	fset, f, _ := parsed(t, "../impl/l11_plan.go")
+	names := methodNamesOf(f, embeddedTypes(f))
+	if len(names) == 0 {
+		t.Error("what is embedded has no methods")
+	}
+	funcs, selections := allFuncsOf(f), checkedProgram(t)
+	for _, name := range []string{"KeyOf", "LongKey"} {
+		seen := map[string]bool{}
+		reach(funcs, name, seen)
+		calls := 0
+		for called := range seen {
+			calls += promotedCalls(fset, funcs[called], names, selections)
+		}
+		if calls == 0 {
+			t.Errorf("%s calls no promoted method", name)
+		}
 	}
 }
