@@ -608,3 +608,55 @@ func TestWayOfPlans(t *testing.T) {
 		}
 	}
 }
+
+// takesPointer tells whether a function is handed a pointer to this type, as an argument or as what it is a method of.
+func takesPointer(fn *ast.FuncDecl, name string) bool {
+	fields := fn.Type.Params.List
+	if fn.Recv != nil {
+		fields = append(fields[:len(fields):len(fields)], fn.Recv.List...)
+	}
+	for _, field := range fields {
+		if star, ok := field.Type.(*ast.StarExpr); ok {
+			if id, ok := star.X.(*ast.Ident); ok && id.Name == name {
+				return true
+			}
+		}
+	}
+	return false
+}
+
+// clearsField tells whether a function clears a field of this name.
+func clearsField(fn *ast.FuncDecl, name string) bool {
+	found := false
+	ast.Inspect(fn.Body, func(n ast.Node) bool {
+		if call, ok := n.(*ast.CallExpr); ok && len(call.Args) == 1 {
+			id, isName := call.Fun.(*ast.Ident)
+			x, isField := call.Args[0].(*ast.SelectorExpr)
+			found = found || isName && isField && id.Name == "clear" && x.Sel.Name == name
+		}
+		return true
+	})
+	return found
+}
+
+// An operation reaches its disk by a pointer, and there the cache is cleared.
+func TestWayOfTheDisk(t *testing.T) {
+	_, f, _ := parsed(t, "../impl/l12_disk.go")
+	funcs := allFuncsOf(f)
+	for _, name := range []string{"WriteSec", "Flush"} {
+		seen := map[string]bool{}
+		reach(funcs, name, seen)
+		reaches, clears := 0, 0
+		for called := range seen {
+			if takesPointer(funcs[called], "Disk") {
+				reaches++
+				if clearsField(funcs[called], "Cache") {
+					clears++
+				}
+			}
+		}
+		if reaches < 2 || clears == 0 {
+			t.Errorf("%s: %d functions are handed a pointer to the disk, %d of them clear its cache", name, reaches, clears)
+		}
+	}
+}
