@@ -660,3 +660,58 @@ func TestWayOfTheDisk(t *testing.T) {
 		}
 	}
 }
+
+// iotaGroup has the names of the constants that one group of a file tells by iota.
+func iotaGroup(f *ast.File) map[string]bool {
+	out := map[string]bool{}
+	for _, d := range f.Decls {
+		g, ok := d.(*ast.GenDecl)
+		if !ok || g.Tok != token.CONST || !usesName(g, "iota") {
+			continue
+		}
+		for _, s := range g.Specs {
+			v := s.(*ast.ValueSpec)
+			// One that has a value of its own, without iota, is not told by it.
+			if len(v.Values) > 0 && !usesName(v, "iota") {
+				continue
+			}
+			for _, name := range v.Names {
+				out[name.Name] = true
+			}
+		}
+	}
+	return out
+}
+
+// usesName tells whether a name stands anywhere below.
+func usesName(n ast.Node, name string) bool {
+	found := false
+	ast.Inspect(n, func(n ast.Node) bool {
+		id, ok := n.(*ast.Ident)
+		found = found || ok && id.Name == name
+		return true
+	})
+	return found
+}
+
+// Kinds are told by iota, and a page is asked for them by their names.
+func TestWayOfPages(t *testing.T) {
+	_, f, _ := parsed(t, "../impl/l13_page.go")
+	funcs, kinds := allFuncsOf(f), iotaGroup(f)
+	for _, kind := range []string{"PgNode", "PgMeta"} {
+		if !kinds[kind] {
+			t.Errorf("%s is not told by iota", kind)
+		}
+		for _, name := range []string{"PutPage", "GetPage"} {
+			seen := map[string]bool{}
+			reach(funcs, name, seen)
+			found := false
+			for called := range seen {
+				found = found || usesName(funcs[called], kind)
+			}
+			if !found {
+				t.Errorf("%s asks for no %s", name, kind)
+			}
+		}
+	}
+}
