@@ -715,3 +715,51 @@ func TestWayOfPages(t *testing.T) {
 		}
 	}
 }
+
+// assertedTypes has the types that a function asks for by assertions: those with two values, and those that panic.
+func assertedTypes(fn *ast.FuncDecl) (map[string]bool, map[string]bool) {
+	two, one := map[string]bool{}, map[string]bool{}
+	paired := map[ast.Expr]bool{}
+	ast.Inspect(fn.Body, func(n ast.Node) bool {
+		if a, ok := n.(*ast.AssignStmt); ok && len(a.Lhs) == 2 && len(a.Rhs) == 1 {
+			paired[a.Rhs[0]] = true
+		}
+		if x, ok := n.(*ast.TypeAssertExpr); ok {
+			if id, ok := x.Type.(*ast.Ident); ok && paired[x] {
+				two[id.Name] = true
+			} else if ok {
+				one[id.Name] = true
+			}
+		}
+		return true
+	})
+	return two, one
+}
+
+// One kind is asked for, and what is not of that must be of the other; no function of the chapter asks itself.
+func TestWayOfNodes(t *testing.T) {
+	_, f, _ := parsed(t, "../impl/l14_node.go")
+	funcs, methods := allFuncsOf(f), methodsOf(f)
+	if !hasInterface(f) {
+		t.Error("no interface")
+	}
+	for _, name := range []string{"NodeOk", "SizeOf", "PutNode", "GetNode"} {
+		seen := map[string]bool{}
+		reach(funcs, name, seen)
+		both := 0
+		for called := range seen {
+			two, one := assertedTypes(funcs[called])
+			if len(two)+len(one) > 0 && ast.IsExported(called) {
+				t.Errorf("%s itself asks for a kind", called)
+			}
+			for kind := range two {
+				if len(two) == 1 && len(one) == 1 && !one[kind] && methods[kind] > 0 {
+					both++
+				}
+			}
+		}
+		if both == 0 {
+			t.Errorf("%s asks by assertions for no two kinds", name)
+		}
+	}
+}
