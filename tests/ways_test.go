@@ -547,8 +547,8 @@ func methodNamesOf(f *ast.File, types map[string]bool) map[string]bool {
 	return out
 }
 
-// checkedProgram has what the program's types say of each selector in it.
-func checkedProgram(t *testing.T) map[token.Position]*types.Selection {
+// checkProgram fills in what the program's types say of it.
+func checkProgram(t *testing.T, info *types.Info) *token.FileSet {
 	t.Helper()
 	fset := token.NewFileSet()
 	var files []*ast.File
@@ -559,11 +559,18 @@ func checkedProgram(t *testing.T) map[token.Position]*types.Selection {
 		}
 		files = append(files, f)
 	}
-	info := types.Info{Selections: map[*ast.SelectorExpr]*types.Selection{}}
 	config := types.Config{Importer: importer.ForCompiler(fset, "source", nil)}
-	if _, err := config.Check("impl", fset, files, &info); err != nil {
+	if _, err := config.Check("impl", fset, files, info); err != nil {
 		t.Fatal(err)
 	}
+	return fset
+}
+
+// checkedProgram has what the program's types say of each selector in it.
+func checkedProgram(t *testing.T) map[token.Position]*types.Selection {
+	t.Helper()
+	info := types.Info{Selections: map[*ast.SelectorExpr]*types.Selection{}}
+	fset := checkProgram(t, &info)
 	out := map[token.Position]*types.Selection{}
 	for x, s := range info.Selections {
 		out[fset.Position(x.Sel.Pos())] = s
@@ -761,5 +768,45 @@ func TestWayOfNodes(t *testing.T) {
 		if both == 0 {
 			t.Errorf("%s asks by assertions for no two kinds", name)
 		}
+	}
+}
+
+// comparedTypes has the type of what stands on the left of each == and != of the program.
+func comparedTypes(t *testing.T) map[token.Position]string {
+	t.Helper()
+	info := types.Info{Types: map[ast.Expr]types.TypeAndValue{}}
+	fset := checkProgram(t, &info)
+	out := map[token.Position]string{}
+	for x := range info.Types {
+		if c, ok := x.(*ast.BinaryExpr); ok && (c.Op == token.EQL || c.Op == token.NEQ) {
+			out[fset.Position(c.OpPos)] = info.Types[c.X].Type.String()
+		}
+	}
+	return out
+}
+
+// comparesRoots tells whether a function holds two roots against each other as a whole.
+func comparesRoots(fset *token.FileSet, fn *ast.FuncDecl, compared map[token.Position]string) bool {
+	found := false
+	ast.Inspect(fn.Body, func(n ast.Node) bool {
+		c, ok := n.(*ast.BinaryExpr)
+		found = found || ok && compared[fset.Position(c.OpPos)] == "impl.Meta"
+		return true
+	})
+	return found
+}
+
+// Which root counts is told by roots that are compared as structs.
+func TestWayOfRoots(t *testing.T) {
+	fset, f, _ := parsed(t, "../impl/l15_meta.go")
+	funcs, compared := allFuncsOf(f), comparedTypes(t)
+	seen := map[string]bool{}
+	reach(funcs, "BestMeta", seen)
+	found := false
+	for called := range seen {
+		found = found || comparesRoots(fset, funcs[called], compared)
+	}
+	if !found {
+		t.Error("BestMeta compares no roots as structs")
 	}
 }
