@@ -810,3 +810,67 @@ func TestWayOfRoots(t *testing.T) {
 		t.Error("BestMeta compares no roots as structs")
 	}
 }
+
+// nodeMapUses counts, by the place where each stands, the uses of maps of nodes by their sectors: what is stored or asked, and what is deleted.
+func nodeMapUses(t *testing.T) (map[token.Position]int, map[token.Position]int) {
+	t.Helper()
+	info := types.Info{Types: map[ast.Expr]types.TypeAndValue{}}
+	fset := checkProgram(t, &info)
+	asked, deleted := map[token.Position]int{}, map[token.Position]int{}
+	for x := range info.Types {
+		switch y := x.(type) {
+		case *ast.IndexExpr:
+			if isNodeMap(info.Types[y.X].Type) {
+				asked[fset.Position(y.Lbrack)]++
+			}
+		case *ast.CallExpr:
+			id, ok := y.Fun.(*ast.Ident)
+			if ok && id.Name == "delete" && isNodeMap(info.Types[y.Args[0]].Type) {
+				deleted[fset.Position(y.Lparen)]++
+			}
+		}
+	}
+	return asked, deleted
+}
+
+func isNodeMap(x types.Type) bool {
+	if x == nil {
+		return false
+	}
+	m, ok := x.Underlying().(*types.Map)
+	return ok && m.Key().String() == "int" && m.Elem().String() == "impl.Node"
+}
+
+// usesWithin counts the uses that stand within a function.
+func usesWithin(fset *token.FileSet, fn *ast.FuncDecl, uses map[token.Position]int) int {
+	from, to := fset.Position(fn.Pos()), fset.Position(fn.End())
+	count := 0
+	for at, n := range uses {
+		if at.Filename == from.Filename && at.Offset >= from.Offset && at.Offset < to.Offset {
+			count += n
+		}
+	}
+	return count
+}
+
+// New nodes are asked for in a map by their sectors, and what of it is told is deleted there.
+func TestWayOfWhatIsUnderWay(t *testing.T) {
+	fset, f, _ := parsed(t, "../impl/l16_txn.go")
+	asked, deleted := nodeMapUses(t)
+	funcs := allFuncsOf(f)
+	for _, name := range []string{"NodeAt", "PagesOf", "FreeOf", "TxnOk"} {
+		seen := map[string]bool{}
+		reach(funcs, name, seen)
+		asks, deletes := 0, 0
+		for called := range seen {
+			asks += usesWithin(fset, funcs[called], asked)
+			deletes += usesWithin(fset, funcs[called], deleted)
+		}
+		if asks == 0 {
+			t.Errorf("%s asks no map of new nodes by their sectors", name)
+		}
+		if name == "TxnOk" && deletes == 0 {
+			t.Errorf("%s deletes from no map of new nodes", name)
+		}
+	}
+}
