@@ -874,3 +874,63 @@ func TestWayOfWhatIsUnderWay(t *testing.T) {
 		}
 	}
 }
+
+// leftByLabel has the loops of a function that are left by their label from within what a break alone would leave instead.
+func leftByLabel(fn *ast.FuncDecl) []ast.Stmt {
+	var out []ast.Stmt
+	ast.Inspect(fn.Body, func(n ast.Node) bool {
+		if l, ok := n.(*ast.LabeledStmt); ok && isLoop(l.Stmt) && breaksFromWithin(l) {
+			out = append(out, l.Stmt)
+		}
+		return true
+	})
+	return out
+}
+
+func isLoop(n ast.Node) bool {
+	switch n.(type) {
+	case *ast.ForStmt, *ast.RangeStmt:
+		return true
+	}
+	return false
+}
+
+// breaksFromWithin tells whether a break of this label stands in a loop, a switch or a select of its own.
+func breaksFromWithin(l *ast.LabeledStmt) bool {
+	found := false
+	ast.Inspect(l.Stmt, func(n ast.Node) bool {
+		switch n.(type) {
+		case *ast.SwitchStmt, *ast.TypeSwitchStmt, *ast.SelectStmt, *ast.ForStmt, *ast.RangeStmt:
+			found = found || n != l.Stmt && breaksTo(n, l.Label.Name)
+		}
+		return true
+	})
+	return found
+}
+
+func breaksTo(n ast.Node, label string) bool {
+	found := false
+	ast.Inspect(n, func(n ast.Node) bool {
+		b, ok := n.(*ast.BranchStmt)
+		found = found || ok && b.Tok == token.BREAK && b.Label != nil && b.Label.Name == label
+		return true
+	})
+	return found
+}
+
+// The loop that goes from a node to the kid of a key is the one that is left.
+func TestWayOfFinding(t *testing.T) {
+	_, f, _ := parsed(t, "../impl/l17_find.go")
+	funcs := allFuncsOf(f)
+	seen := map[string]bool{}
+	reach(funcs, "Find", seen)
+	found := false
+	for called := range seen {
+		for _, loop := range leftByLabel(funcs[called]) {
+			found = found || callsOf(loop, "ChildOf") > 0
+		}
+	}
+	if !found {
+		t.Error("Find leaves no way down by its label")
+	}
+}
