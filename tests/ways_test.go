@@ -934,3 +934,87 @@ func TestWayOfFinding(t *testing.T) {
 		t.Error("Find leaves no way down by its label")
 	}
 }
+
+// funcParamsOf has the names of what a function is handed that are function values of nodes.
+func funcParamsOf(fn *ast.FuncDecl, kinds map[string]bool) map[string]bool {
+	out := map[string]bool{}
+	for _, field := range fn.Type.Params.List {
+		if id, ok := field.Type.(*ast.Ident); ok && kinds[id.Name] {
+			for _, name := range field.Names {
+				out[name.Name] = true
+			}
+		}
+	}
+	return out
+}
+
+// answers tells whether a function answers one of these types.
+func answers(fn *ast.FuncDecl, kinds map[string]bool) bool {
+	if fn.Type.Results == nil {
+		return false
+	}
+	for _, field := range fn.Type.Results.List {
+		if id, ok := field.Type.(*ast.Ident); ok && kinds[id.Name] {
+			return true
+		}
+	}
+	return false
+}
+
+// nodeFuncTypes has the names of a file's types of functions that answer a Node.
+func nodeFuncTypes(f *ast.File) map[string]bool {
+	out := map[string]bool{}
+	ast.Inspect(f, func(n ast.Node) bool {
+		spec, ok := n.(*ast.TypeSpec)
+		if !ok {
+			return true
+		}
+		if fn, ok := spec.Type.(*ast.FuncType); ok && fn.Results != nil && usesName(fn.Results, "Node") {
+			out[spec.Name.Name] = true
+		}
+		return true
+	})
+	return out
+}
+
+// What puts a node answers a function value, which is handed on, called for the node above, and set anew by what that one became.
+func TestWayOfPutting(t *testing.T) {
+	_, f, _ := parsed(t, "../impl/l18_put.go")
+	kinds, funcs := nodeFuncTypes(f), allFuncsOf(f)
+	seen := map[string]bool{}
+	reach(funcs, "Put", seen)
+	putters := map[string]bool{}
+	for called := range seen {
+		if answers(funcs[called], kinds) && callsOf(funcs[called], "SizeOf") > 0 {
+			putters[called] = true
+		}
+	}
+	found := false
+	for called := range seen {
+		for turn := range funcParamsOf(funcs[called], kinds) {
+			found = found || callsOf(funcs[called], turn) > 0 && setByCall(funcs[called], turn, putters)
+		}
+	}
+	if len(putters) == 0 || !found {
+		t.Errorf("Put hands on no function value: %v put", putters)
+	}
+}
+
+// setByCall tells whether what has this name is set to what one of these methods answers.
+func setByCall(fn *ast.FuncDecl, name string, methods map[string]bool) bool {
+	found := false
+	ast.Inspect(fn.Body, func(n ast.Node) bool {
+		set, ok := n.(*ast.AssignStmt)
+		if !ok || len(set.Lhs) != 1 || len(set.Rhs) != 1 {
+			return true
+		}
+		id, isName := set.Lhs[0].(*ast.Ident)
+		call, isCall := set.Rhs[0].(*ast.CallExpr)
+		if isName && isCall && id.Name == name {
+			x, isMethod := call.Fun.(*ast.SelectorExpr)
+			found = found || isMethod && methods[x.Sel.Name]
+		}
+		return true
+	})
+	return found
+}
