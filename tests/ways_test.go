@@ -1018,3 +1018,49 @@ func setByCall(fn *ast.FuncDecl, name string, methods map[string]bool) bool {
 	})
 	return found
 }
+
+// clausesFallen has pairs of a function's clauses, of which the first falls through to the second.
+func clausesFallen(fn *ast.FuncDecl) [][2]ast.Stmt {
+	var out [][2]ast.Stmt
+	ast.Inspect(fn.Body, func(n ast.Node) bool {
+		s, ok := n.(*ast.SwitchStmt)
+		if !ok {
+			return true
+		}
+		for i, clause := range s.Body.List {
+			body := clause.(*ast.CaseClause).Body
+			if len(body) == 0 {
+				continue
+			}
+			if last, ok := body[len(body)-1].(*ast.BranchStmt); ok && last.Tok == token.FALLTHROUGH {
+				out = append(out, [2]ast.Stmt{clause, s.Body.List[i+1]})
+			}
+		}
+		return true
+	})
+	return out
+}
+
+// asksForBoth tells whether a size is held against the greatest one there.
+func asksForBoth(clause ast.Stmt) bool {
+	return callsOf(clause, "SizeOf") > 0 && usesName(clause, "MaxBody")
+}
+
+// The clause that joins with the one ahead falls through to the one that joins with the one behind: both ask for the size of both.
+func TestWayOfTakingAway(t *testing.T) {
+	_, f, _ := parsed(t, "../impl/l19_del.go")
+	funcs := allFuncsOf(f)
+	seen := map[string]bool{}
+	reach(funcs, "Del", seen)
+	found := 0
+	for called := range seen {
+		for _, clauses := range clausesFallen(funcs[called]) {
+			if asksForBoth(clauses[0]) && asksForBoth(clauses[1]) {
+				found++
+			}
+		}
+	}
+	if found != 1 {
+		t.Errorf("Del falls through from one joining to the other in %d places", found)
+	}
+}
