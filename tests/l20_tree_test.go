@@ -169,10 +169,25 @@ func unsound() map[string]impl.Txn {
 		"a kid twice":                     newTree(innerOf(texts("m"), 3, 3), leafOf("m", "1")),
 		"a kid twice, far apart":          newTree(innerOf(texts("c", "m"), 3, 4, 3), leafOf("m", "1"), leafOf("d", "1")),
 		"two lead to one":                 newTree(innerOf(texts("m"), 3, 4), innerOf(nil, 5), innerOf(nil, 5), leafOf("m", "1")),
+		"a kid twice, by the empty key":   newTree(innerOf(texts(""), 3, 3), leafOf("m", "1")),
+		"two to one, by the empty key":    newTree(innerOf(texts(""), 3, 4), innerOf(nil, 5), innerOf(nil, 5), leafOf("m", "1")),
+		"two to one, beside others":       newTree(innerOf(texts("", "t"), 3, 4, 5), innerOf(nil, 6), innerOf(texts("m"), 6, 7), innerOf(nil, 8), leafOf("d", "1"), leafOf("m", "1"), leafOf("t", "1")),
 		"it leads to itself":              newTree(innerOf(nil, 2)),
 		"it leads to itself, too":         newTree(innerOf(texts("m"), 3, 2), leafOf("a", "1")),
 		"it leads to Root":                newTree(innerOf(texts("m"), 3, 4), leafOf("a", "1"), innerOf(nil, 2)),
 		"the way down never ends":         newTree(innerOf(texts("m"), 3, 4), innerOf(nil, 2), leafOf("m", "1")),
+		"it leads to Root, two below":     newTree(innerOf(texts("m"), 3, 4), innerOf(nil, 5), innerOf(texts("n"), 6, 2), leafOf("a", "1"), leafOf("m", "1")),
+		"a ring of two":                   newTree(innerOf(nil, 3), innerOf(nil, 2)),
+		"a ring of three, and a leaf":     newTree(innerOf(texts("m"), 3, 5), innerOf(nil, 4), innerOf(nil, 2), leafOf("m", "1")),
+		"a ring below the first Kid":      newTree(innerOf(texts("m"), 3, 5), innerOf(nil, 4), innerOf(nil, 3), leafOf("m", "1")),
+		"a ring below the last Kid":       newTree(innerOf(texts("m"), 3, 4), leafOf("a", "1"), innerOf(nil, 5), innerOf(nil, 4)),
+		"two lead to one leaf":            newTree(innerOf(texts("m"), 3, 4), innerOf(texts("c"), 5, 6), innerOf(texts("n"), 7, 6), leafOf("a", "1"), leafOf("d", "1"), leafOf("m", "1")),
+		"Root's Kid leads to the other":   newTree(innerOf(texts("m"), 3, 4), leafOf("a", "1"), innerOf(texts("n"), 3, 5), leafOf("n", "1")),
+		"the first leaf two deeper":       newTree(innerOf(texts("m"), 3, 4), innerOf(nil, 5), leafOf("m", "1"), innerOf(nil, 6), leafOf("a", "1")),
+		"the last leaf two deeper":        newTree(innerOf(texts("m"), 3, 4), leafOf("a", "1"), innerOf(nil, 5), innerOf(nil, 6), leafOf("m", "1")),
+		"a leaf deeper, two below":        newTree(innerOf(texts("m"), 3, 4), innerOf(texts("c"), 5, 6), innerOf(nil, 7), leafOf("a", "1"), innerOf(nil, 8), leafOf("m", "1"), leafOf("c", "1")),
+		"a leaf less deep, two below":     newTree(innerOf(texts("m"), 3, 4), innerOf(texts("c"), 5, 6), innerOf(nil, 7), innerOf(nil, 8), leafOf("c", "1"), innerOf(nil, 9), leafOf("a", "1"), leafOf("m", "1")),
+		"each of one depth but the last":  newTree(innerOf(texts("m"), 3, 4), innerOf(texts("c"), 5, 6), innerOf(texts("n"), 7, 8), leafOf("a", "1"), leafOf("c", "1"), leafOf("m", "1"), innerOf(nil, 9), leafOf("n", "1")),
 		"a leaf less deep":                newTree(innerOf(texts("m"), 3, 4), innerOf(nil, 5), leafOf("m", "1"), leafOf("a", "1")),
 		"a leaf deeper":                   newTree(innerOf(texts("m"), 3, 4), leafOf("a", "1"), innerOf(nil, 5), leafOf("m", "1")),
 		"the last leaf deeper":            newTree(innerOf(texts("m", "t"), 3, 4, 5), leafOf("a", "1"), leafOf("m", "1"), innerOf(nil, 6), leafOf("t", "1")),
@@ -216,6 +231,200 @@ func TestTreesThatAreNotSound(t *testing.T) {
 	treeIs(t, "what is kept is no tree, but it is not asked", x, true)
 }
 
+// Each of them is measured, too, though it is no tree: the depth is that of the first Kids, and what is led to again has no keys.
+func TestMeasuresOfWhatIsNoTree(t *testing.T) {
+	measured := map[string][2]int{
+		"a kid twice":                     {2, 1},
+		"a kid twice, far apart":          {2, 2},
+		"two lead to one":                 {3, 1},
+		"a kid twice, by the empty key":   {2, 1},
+		"two to one, by the empty key":    {3, 1},
+		"two to one, beside others":       {3, 3},
+		"it leads to itself":              {48, 0},
+		"it leads to itself, too":         {2, 1},
+		"it leads to Root":                {2, 1},
+		"it leads to Root, two below":     {3, 2},
+		"a ring of two":                   {48, 0},
+		"a ring of three, and a leaf":     {48, 1},
+		"a ring below the first Kid":      {48, 1},
+		"a ring below the last Kid":       {2, 1},
+		"the way down never ends":         {48, 1},
+		"two lead to one leaf":            {3, 3},
+		"Root's Kid leads to the other":   {2, 2},
+		"the first leaf two deeper":       {4, 2},
+		"the last leaf two deeper":        {2, 2},
+		"a leaf deeper, two below":        {3, 3},
+		"a leaf less deep, two below":     {4, 3},
+		"each of one depth but the last":  {3, 4},
+		"a leaf less deep":                {3, 2},
+		"a leaf deeper":                   {2, 2},
+		"the last leaf deeper":            {2, 3},
+		"a leaf ahead of the key":         {2, 3},
+		"a leaf just ahead of the key":    {2, 2},
+		"a leaf of the key behind":        {2, 3},
+		"a leaf behind the key behind":    {2, 3},
+		"the middle leaf too low":         {2, 4},
+		"the middle leaf too high":        {2, 4},
+		"the last leaf too low":           {2, 3},
+		"the key of a node is too low":    {3, 3},
+		"the key of a node is too high":   {3, 3},
+		"a leaf two below is too high":    {3, 3},
+		"a leaf two below is too low":     {3, 3},
+		"ahead of the empty key, two up":  {3, 3},
+		"the empty key behind another":    {2, 3},
+		"the empty key of a node, behind": {3, 3},
+	}
+	for what, x := range unsound() {
+		m, known := measured[what]
+		if !known {
+			t.Errorf("%s is not measured", what)
+		}
+		measures(t, what, x, m[0], m[1], 0)
+	}
+	for what, x := range map[string]impl.Txn{
+		"a ring of all":               newTree(),
+		"a ring of all, and a leaf":   newTree(),
+		"a ring that Root leads into": newTree(),
+	} {
+		for n := range 45 {
+			x.New = append(x.New, fresh(n+2, innerOf(nil, n+3)))
+		}
+		last, count := innerOf(nil, 2), 0
+		switch what {
+		case "a ring of all, and a leaf":
+			last, count = leafOf("a", "1"), 1
+		case "a ring that Root leads into":
+			last = innerOf(nil, 40)
+		}
+		x.New = append(x.New, fresh(47, last))
+		okIs(t, what, x, true)
+		treeIs(t, what, x, last.Leaf)
+		measures(t, what, x, map[bool]int{true: 46, false: 48}[last.Leaf], count, 0)
+	}
+}
+
+// What stands on the disk is measured as what is new, and shared where it is kept.
+func TestMeasuresOfWhatIsKept(t *testing.T) {
+	for what, x := range unsound() {
+		nodes := []impl.Node{}
+		for _, f := range x.New {
+			nodes = append(nodes, f.X)
+		}
+		k := keptTree(48, nodes...)
+		treeIs(t, what, k, false)
+		measures(t, what, k, impl.DepthOf(x), impl.CountOf(x), len(wordsPages(k, 2)))
+		k.M.Root, k.D.Secs[1] = 0, []byte(wordsMeta(meta(1, 0)))
+		okIs(t, what+", nobody kept it", k, true)
+		treeIs(t, what+", nobody kept it", k, false)
+		measures(t, what+", nobody kept it", k, impl.DepthOf(x), impl.CountOf(x), 0)
+	}
+}
+
+// Without Root, or with a Root that is a leaf, maybe one without Keys.
+func TestTreesOfOneNodeAtMost(t *testing.T) {
+	for _, key := range []string{"", "\x00", "a", "\xff", long(48)} {
+		leaf := leafOf(key, "1")
+		cached := impl.TxNew(impl.Format(4, nil))
+		cached.D.Cache, cached.Root = []impl.Write{write(3, nodePage(leaf))}, 3
+		nobodys := keptTree(4, leaf, leaf)
+		nobodys.Root = 3
+		for what, x := range map[string]impl.Txn{"new": freshTree(4, leaf), "new, in the last sector": leafIn(4, 3, leaf), "kept": keptTree(4, leaf), "in the cache": cached, "nobody kept it": nobodys} {
+			treeIs(t, what, x, true)
+			measures(t, what, x, 1, 1, map[string]int{"kept": 1}[what])
+			x.Root, x.New = 0, nil
+			treeIs(t, what+", no Root", x, true)
+			measures(t, what+", no Root", x, 0, 0, 0)
+		}
+	}
+	for what, node := range map[string]impl.Node{"a leaf without Keys": {Leaf: true}, "the zero node": {}, "Keys without Kids": {Keys: texts("a")}, "a leaf without Vals": {Leaf: true, Keys: texts("a")}} {
+		x := newTree(node)
+		treeIs(t, what, x, false)
+		measures(t, what, x, 1, 0, 0)
+		x = keptTree(4, node)
+		treeIs(t, what+", on the disk", x, false)
+		measures(t, what+", on the disk", x, 0, 0, 0)
+	}
+	x := newTree(leafOf("a", "1"))
+	x.Root = 0
+	treeIs(t, "new, but no Root", x, false)
+	measures(t, "new, but no Root", x, 0, 0, 0)
+}
+
+// A node that is not NodeOk at each place of a tree, new and on the disk.
+func TestTreesOfNodesThatAreNotRight(t *testing.T) {
+	tree := func() []impl.Node {
+		return []impl.Node{innerOf(texts("m"), 3, 4), innerOf(texts("c"), 5, 6), innerOf(nil, 7), leafOf("a", "1"), leafOf("c", "1"), leafOf("m", "1")}
+	}
+	treeIs(t, "as it was", newTree(tree()...), true)
+	treeIs(t, "as it was, kept", keptTree(9, tree()...), true)
+	for i := range tree() {
+		for what, turn := range map[string]func(x *impl.Node){
+			"no Keys and no Kids": func(x *impl.Node) { x.Keys, x.Kids = nil, nil },
+			"Keys not in order": func(x *impl.Node) {
+				x.Keys = append(x.Keys, "")
+				x.Kids = append(x.Kids, 8)
+				x.Vals = append(x.Vals, "")
+			},
+			"a Key twice":    func(x *impl.Node) { x.Keys = append(x.Keys, x.Keys...) },
+			"a Key too many": func(x *impl.Node) { x.Keys = append(x.Keys, "z") },
+			"a Key too long": func(x *impl.Node) {
+				x.Keys = append(x.Keys, "z"+long(48))
+				x.Kids = append(x.Kids, 8)
+				x.Vals = append(x.Vals, "")
+			},
+			"of the other kind": func(x *impl.Node) { x.Leaf = !x.Leaf },
+			"a Kid that is a root": func(x *impl.Node) {
+				x.Kids = append(x.Kids, 1)
+				x.Keys = append(x.Keys, "z")
+			},
+		} {
+			nodes := tree()
+			turn(&nodes[i])
+			if wordsNodeOk(nodes[i]) {
+				continue
+			}
+			what = fmt.Sprint(what, " in ", i+2)
+			x := newTree(nodes...)
+			treeIs(t, what, x, false)
+			treeAs(t, what, x)
+			x = keptTree(9, nodes...)
+			treeIs(t, what+", kept", x, false)
+			treeAs(t, what+", kept", x)
+			x.M.Root, x.D.Secs[1] = 0, []byte(wordsMeta(meta(1, 0)))
+			treeIs(t, what+", nobody kept it", x, false)
+			treeAs(t, what+", nobody kept it", x)
+		}
+	}
+}
+
+// What a node leads to must be there, at each place of a tree.
+func TestTreesThatLeadToNothing(t *testing.T) {
+	for _, kid := range []int{11, 10, 7, 12, 13, 46, 47} {
+		for what, nodes := range map[string][]impl.Node{
+			"Root's first":   {innerOf(texts("m"), kid, 3), leafOf("m", "1")},
+			"Root's last":    {innerOf(texts("m"), 3, kid), leafOf("a", "1")},
+			"one below":      {innerOf(nil, 3), innerOf(texts("m"), 4, kid), leafOf("a", "1")},
+			"the only one":   {innerOf(nil, kid)},
+			"all of one":     {innerOf(texts("m"), 3, 4), leafOf("a", "1"), innerOf(nil, kid)},
+			"three below":    {innerOf(nil, 3), innerOf(nil, 4), innerOf(texts("m"), 5, kid), leafOf("a", "1")},
+			"between others": {innerOf(texts("c", "m"), 3, kid, 4), leafOf("a", "1"), leafOf("m", "1")},
+		} {
+			what = fmt.Sprint(what, " leads to ", kid)
+			x, k := freshTree(12, nodes...), keptTree(12, nodes...)
+			n := keptTree(12, nodes...)
+			n.M.Root, n.D.Secs[1] = 0, []byte(wordsMeta(meta(1, 0)))
+			for _, d := range []impl.Disk{x.D, k.D, n.D} {
+				d.Secs[7] = []byte(wordsMeta(meta(9, 4)))
+				d.Secs[10] = []byte(nodePage(leafOf("cut", "x"))[:9])
+			}
+			for where, y := range map[string]impl.Txn{"new": x, "kept": k, "nobody kept it": n} {
+				treeIs(t, what+", "+where, y, false)
+				treeAs(t, what+", "+where, y)
+			}
+		}
+	}
+}
+
 // Edges of what stands between two keys: the one ahead is met, and behind the empty one stands anything.
 func TestTreesAtTheEdgesOfKeys(t *testing.T) {
 	for what, x := range map[string]impl.Txn{
@@ -229,6 +438,67 @@ func TestTreesAtTheEdgesOfKeys(t *testing.T) {
 	} {
 		treeIs(t, what, x, true)
 		treeAs(t, what, x)
+	}
+}
+
+// fourDeep has one leaf three below each Kid of Root, between which there is this Key.
+func fourDeep(key string, first string, last string) impl.Txn {
+	return newTree(innerOf(texts(key), 3, 4), innerOf(nil, 5), innerOf(nil, 6), innerOf(nil, 7), innerOf(nil, 8), leafOf(first, "1"), leafOf(last, "1"))
+}
+
+// The Keys of a node that is two or three nodes up are held against each Key below, as those of the next one.
+func TestTreesWhoseKeysStandFurtherUp(t *testing.T) {
+	for _, c := range []struct {
+		key   string
+		first string
+		last  string
+		want  bool
+	}{
+		{"m", "a", "m", true},
+		{"m", "l\xff", "z", true},
+		{"m", "", "m\x00", true},
+		{"m", "m", "m", false},
+		{"m", "m\x00", "m", false},
+		{"m", "z", "m", false},
+		{"m", "a", "l\xff", false},
+		{"m", "a", "", false},
+		{"", "a", "a", true},
+		{"", "z", "", true},
+		{"", "", "", true},
+		{"", "\xff", "a", true},
+		{"\x00", "", "\x00", true},
+		{"\x00", "\x00", "\x00", false},
+	} {
+		what := fmt.Sprintf("%q ahead of %q, and %q", c.first, c.key, c.last)
+		treeIs(t, what, fourDeep(c.key, c.first, c.last), c.want)
+		treeIs(t, what+", one up", newTree(innerOf(texts(c.key), 3, 4), leafOf(c.first, "1"), leafOf(c.last, "1")), c.want)
+		treeIs(t, what+", two up", newTree(innerOf(texts(c.key), 3, 4), innerOf(nil, 5), innerOf(nil, 6), leafOf(c.first, "1"), leafOf(c.last, "1")), c.want)
+		treeIs(t, what+", below the one Kid of Root", newTree(innerOf(nil, 3), innerOf(texts(c.key), 4, 5), innerOf(nil, 6), innerOf(nil, 7), leafOf(c.first, "1"), leafOf(c.last, "1")), c.want)
+		// A Key between, too, stands as the Keys of leaves do.
+		between := newTree(innerOf(texts(c.key), 3, 4), innerOf(texts(c.first), 5, 6), innerOf(texts(c.last), 7, 8), leafOf("", "1"), leafOf(c.first, "1"), leafOf(c.last, "1"), leafOf("\xff", "1"))
+		treeAs(t, what+", between", between)
+		if !c.want {
+			treeIs(t, what+", between", between, false)
+		}
+	}
+	// The one ahead that is nearest counts, and so does the one behind.
+	for _, key := range []string{"c", "d", "l\xff"} {
+		treeIs(t, "between two that stand apart", newTree(innerOf(texts("m"), 3, 4), innerOf(texts("c"), 5, 6), innerOf(nil, 7), leafOf("a", "1"), leafOf(key, "1"), leafOf("m", "1")), true)
+	}
+	for _, key := range []string{"b", "b\xff", "", "m", "m\x00", "z"} {
+		treeIs(t, "outside of two that stand apart", newTree(innerOf(texts("m"), 3, 4), innerOf(texts("c"), 5, 6), innerOf(nil, 7), leafOf("a", "1"), leafOf(key, "1"), leafOf("m", "1")), false)
+	}
+}
+
+// The empty Key of a node asks nothing of what stands ahead of it; those of the nodes above ask on.
+func TestTreesBelowTheEmptyKey(t *testing.T) {
+	for key, want := range map[string]bool{"": true, "a": true, "l\xff": true, "m": false, "m\x00": false, "z": false} {
+		two := newTree(innerOf(texts("m"), 3, 4), innerOf(texts(""), 5, 6), innerOf(nil, 7), leafOf(key, "1"), leafOf("b", "1"), leafOf("o", "1"))
+		treeIs(t, fmt.Sprintf("%q, and a Key two up", key), two, want)
+		three := newTree(innerOf(texts("m"), 3, 4), innerOf(texts(""), 5, 6), innerOf(nil, 7), innerOf(nil, 8), innerOf(nil, 9), innerOf(nil, 10), leafOf(key, "1"), leafOf("b", "1"), leafOf("o", "1"))
+		treeIs(t, fmt.Sprintf("%q, and a Key three up", key), three, want)
+		both := newTree(innerOf(texts(""), 3, 4), innerOf(texts(""), 5, 6), innerOf(nil, 7), leafOf(key, "1"), leafOf("b", "1"), leafOf("o", "1"))
+		treeIs(t, fmt.Sprintf("%q, and the empty Key two up", key), both, true)
 	}
 }
 
@@ -264,6 +534,75 @@ func TestShares(t *testing.T) {
 	measures(t, "M of another", x, 2, 4, 1)
 	x.M.Root = 0
 	measures(t, "M without a tree", x, 2, 4, 0)
+}
+
+// None, some and all of what is kept, with nodes in New and without.
+func TestSharesOfTwoRoots(t *testing.T) {
+	for _, c := range []struct {
+		root int
+		kept int
+		want int
+	}{
+		{6, 6, 3}, {9, 6, 1}, {3, 6, 1}, {5, 6, 1}, {4, 6, 0}, {0, 6, 0}, {6, 0, 0}, {0, 0, 0}, {6, 3, 1}, {5, 3, 1}, {5, 9, 0}, {9, 9, 1}, {5, 5, 2},
+		{2, 6, 1}, {11, 6, 0}, {2, 2, 3}, {2, 11, 1}, {11, 2, 1}, {2, 9, 1}, {2, 3, 0}, {2, 0, 0}, {0, 2, 0}, {7, 6, 0}, {6, 7, 0}, {12, 6, 0}, {6, 12, 0}, {-1, -1, 0}, {1, 1, 0},
+	} {
+		x := underWay()
+		x.Root, x.M.Root = c.root, c.kept
+		measures(t, fmt.Sprint(c.root, " and ", c.kept), x, wordsDepth(x), len(wordsPairs(x)), c.want)
+	}
+	// In a tree of three levels each way down that turns is told.
+	k := threeKept()
+	measures(t, "all of three levels", k, 3, impl.CountOf(k), len(impl.PagesOf(k, k.M.Root)))
+	y, code := impl.Put(k, "a", "2")
+	if got := impl.ShareOf(y); code != impl.CoGood || got != len(impl.PagesOf(k, k.M.Root))-3 {
+		t.Errorf("of %s there are shared %d", txnText(y), got)
+	}
+}
+
+// Of a tree that is sound, putting and taking away make one, whichever sectors have it.
+func TestWhatIsPutAndTakenIsSound(t *testing.T) {
+	r := rand.New(rand.NewSource(2020))
+	codes, depths := map[int]int{}, map[int]int{}
+	for i := range 200 {
+		x := soundTree(r, somePairs(r))
+		switch i % 4 {
+		case 0:
+			x = longTree(r)
+		case 1:
+			x = threeKept()
+		}
+		for range 15 {
+			key, val := somePut(r, x)
+			y, code := impl.Del(x, key)
+			if r.Intn(3) > 0 {
+				y, code = impl.Put(x, wide(key, max(len(key), r.Intn(49))), val)
+			}
+			codes[code]++
+			depths[wordsDepth(y)]++
+			treeIs(t, fmt.Sprintf("behind %q", key), y, true)
+			measures(t, fmt.Sprintf("behind %q", key), y, wordsDepth(y), len(wordsPairs(y)), wordsShare(y))
+			if code != impl.CoGood && txnText(y) != txnText(x) {
+				t.Errorf("%q is refused, but %s turned into %s", key, txnText(x), txnText(y))
+			}
+			x = y
+		}
+		if t.Failed() {
+			t.FailNow()
+		}
+	}
+	if codes[impl.CoGood] < 1500 || codes[impl.CoMissing] < 500 || codes[impl.CoSpace] < 20 || depths[3] < 500 {
+		t.Errorf("the codes %v, the depths %v", codes, depths)
+	}
+}
+
+// Of what is not sound neither makes anything.
+func TestWhatIsNotSoundIsNotTurned(t *testing.T) {
+	for what, x := range unsound() {
+		for _, key := range []string{"a", "b", "m", "z", ""} {
+			putsNot(t, what, x, key, "1", impl.CoForm)
+			delsNot(t, what, x, key, impl.CoForm)
+		}
+	}
 }
 
 func TestTreesByTheWords(t *testing.T) {

@@ -1064,3 +1064,54 @@ func TestWayOfTakingAway(t *testing.T) {
 		t.Errorf("Del falls through from one joining to the other in %d places", found)
 	}
 }
+
+// numberMaps has the places where a map is asked, or stored into, whose keys and values are numbers.
+func numberMaps(t *testing.T) map[token.Position]int {
+	t.Helper()
+	info := types.Info{Types: map[ast.Expr]types.TypeAndValue{}}
+	fset := checkProgram(t, &info)
+	out := map[token.Position]int{}
+	for x := range info.Types {
+		if at, ok := x.(*ast.IndexExpr); ok {
+			if m, ok := info.Types[at.X].Type.Underlying().(*types.Map); ok && m.Key().String() == "int" && m.Elem().String() == "int" {
+				out[fset.Position(at.Lbrack)]++
+			}
+		}
+	}
+	return out
+}
+
+// countsIn tells whether a function counts up in one of these places, and compares what stands in one.
+func countsIn(fset *token.FileSet, fn *ast.FuncDecl, places map[token.Position]int) (bool, bool) {
+	counts, compares := false, false
+	isPlace := func(x ast.Expr) bool {
+		at, ok := x.(*ast.IndexExpr)
+		return ok && places[fset.Position(at.Lbrack)] > 0
+	}
+	ast.Inspect(fn.Body, func(n ast.Node) bool {
+		switch x := n.(type) {
+		case *ast.IncDecStmt:
+			counts = counts || isPlace(x.X)
+		case *ast.BinaryExpr:
+			compares = compares || isPlace(x.X) || isPlace(x.Y)
+		}
+		return true
+	})
+	return counts, compares
+}
+
+// Where a sector is led to, it is counted in a map by its number, and the count is asked.
+func TestWayOfWhatIsSound(t *testing.T) {
+	fset, f, _ := parsed(t, "../impl/l20_tree.go")
+	funcs, places := allFuncsOf(f), numberMaps(t)
+	seen := map[string]bool{}
+	reach(funcs, "TreeOk", seen)
+	counts, compares := false, false
+	for called := range seen {
+		c, d := countsIn(fset, funcs[called], places)
+		counts, compares = counts || c, compares || d
+	}
+	if !counts || !compares {
+		t.Errorf("TreeOk has no map of what was met: %v, %v", counts, compares)
+	}
+}
