@@ -1115,3 +1115,69 @@ func TestWayOfWhatIsSound(t *testing.T) {
 		t.Errorf("TreeOk has no map of what was met: %v, %v", counts, compares)
 	}
 }
+
+// doneInARow tells whether a function ranges over a list of function values, and calls each of them.
+func doneInARow(fset *token.FileSet, fn *ast.FuncDecl, lists map[token.Position]int) bool {
+	found := false
+	ast.Inspect(fn.Body, func(n ast.Node) bool {
+		loop, ok := n.(*ast.RangeStmt)
+		if !ok || loop.Value == nil {
+			return true
+		}
+		do, isName := loop.Value.(*ast.Ident)
+		found = found || isName && lists[fset.Position(loop.X.Pos())] > 0 && callsOf(loop.Body, do.Name) > 0
+		return true
+	})
+	return found
+}
+
+// funcLists has the places of what is a list of functions.
+func funcLists(t *testing.T) map[token.Position]int {
+	t.Helper()
+	info := types.Info{Types: map[ast.Expr]types.TypeAndValue{}}
+	fset := checkProgram(t, &info)
+	out := map[token.Position]int{}
+	for x, has := range info.Types {
+		if l, ok := has.Type.Underlying().(*types.Slice); ok {
+			if _, isFunc := l.Elem().Underlying().(*types.Signature); isFunc {
+				out[fset.Position(x.Pos())]++
+			}
+		}
+	}
+	return out
+}
+
+// answersClosure tells whether a function answers a function literal that uses what the function was handed.
+func answersClosure(fn *ast.FuncDecl) bool {
+	found := false
+	ast.Inspect(fn.Body, func(n ast.Node) bool {
+		back, ok := n.(*ast.ReturnStmt)
+		if !ok || len(back.Results) != 1 {
+			return true
+		}
+		lit, isLit := back.Results[0].(*ast.FuncLit)
+		for _, field := range fn.Type.Params.List {
+			for _, name := range field.Names {
+				found = found || isLit && usesName(lit.Body, name.Name)
+			}
+		}
+		return true
+	})
+	return found
+}
+
+// What is done is a list of closures, which are called one behind the other.
+func TestWayOfMakingSure(t *testing.T) {
+	fset, f, _ := parsed(t, "../impl/l21_commit.go")
+	funcs, lists := allFuncsOf(f), funcLists(t)
+	seen := map[string]bool{}
+	reach(funcs, "Commit", seen)
+	row, closure := false, false
+	for called := range seen {
+		row = row || doneInARow(fset, funcs[called], lists)
+		closure = closure || answersClosure(funcs[called])
+	}
+	if !row || !closure {
+		t.Errorf("Commit has no list of closures that are called one behind the other: %v, %v", row, closure)
+	}
+}
