@@ -1181,3 +1181,51 @@ func TestWayOfMakingSure(t *testing.T) {
 		t.Errorf("Commit has no list of closures that are called one behind the other: %v, %v", row, closure)
 	}
 }
+
+// genericTypes has the names of a file's types that have type parameters.
+func genericTypes(f *ast.File) map[string]bool {
+	out := map[string]bool{}
+	ast.Inspect(f, func(n ast.Node) bool {
+		if spec, ok := n.(*ast.TypeSpec); ok && spec.TypeParams != nil {
+			out[spec.Name.Name] = true
+		}
+		return true
+	})
+	return out
+}
+
+// genericOf has the name of the type of which this is one with its parameters given.
+func genericOf(x ast.Expr) string {
+	switch x := x.(type) {
+	case *ast.Ident:
+		return x.Name
+	case *ast.IndexExpr:
+		return genericOf(x.X)
+	case *ast.IndexListExpr:
+		return genericOf(x.X)
+	}
+	return ""
+}
+
+// Rows become a generic type with their keys, whose methods tell their order, and where a row has its place.
+func TestWayOfWhatTablesHave(t *testing.T) {
+	_, f, _ := parsed(t, "../impl/l22_mdb.go")
+	kinds, funcs := genericTypes(f), allFuncsOf(f)
+	for _, name := range []string{"MdbOk", "ApplyOp", "ApplyBatch"} {
+		seen := map[string]bool{}
+		reach(funcs, name, seen)
+		makers, methods := 0, 0
+		for called := range seen {
+			fn := funcs[called]
+			switch {
+			case fn.Recv != nil && kinds[genericOf(fn.Recv.List[0].Type)]:
+				methods++
+			case fn.Type.Results != nil && kinds[genericOf(fn.Type.Results.List[0].Type)]:
+				makers++
+			}
+		}
+		if makers == 0 || methods < 2 {
+			t.Errorf("%s has rows in no generic type: %d make one, %d are its methods", name, makers, methods)
+		}
+	}
+}
